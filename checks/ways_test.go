@@ -17,6 +17,7 @@ import (
 // ways are the ways of the language that the document's section 'Ways' asks of each layer.
 var ways = map[string][]string{
 	"octet": {"closure", "array", "range-string"},
+	"crc":   {"table", "array", "shift", "range-integer"},
 }
 
 // library is what LANGUAGE.md lets a package of the program import beside the project's own ones.
