@@ -18,6 +18,7 @@ import (
 var ways = map[string][]string{
 	"octet": {"closure", "array", "range-string"},
 	"crc":   {"table", "array", "shift", "range-integer"},
+	"sha":   {"closure", "array"},
 }
 
 // library is what LANGUAGE.md lets a package of the program import beside the project's own ones.
