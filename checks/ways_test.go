@@ -19,6 +19,7 @@ var ways = map[string][]string{
 	"octet": {"closure", "array", "range-string"},
 	"crc":   {"table", "array", "shift", "range-integer"},
 	"sha":   {"closure", "array"},
+	"nat":   {"closure", "three-index"},
 }
 
 // library is what LANGUAGE.md lets a package of the program import beside the project's own ones.
