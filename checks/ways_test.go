@@ -20,6 +20,7 @@ var ways = map[string][]string{
 	"crc":   {"table", "array", "shift", "range-integer"},
 	"sha":   {"closure", "array"},
 	"nat":   {"closure", "three-index"},
+	"mont":  {"range-function"},
 }
 
 // library is what LANGUAGE.md lets a package of the program import beside the project's own ones.
