@@ -21,6 +21,7 @@ var ways = map[string][]string{
 	"sha":   {"closure", "array"},
 	"nat":   {"closure", "three-index"},
 	"mont":  {"range-function"},
+	"rsa":   {"variadic"},
 }
 
 // library is what LANGUAGE.md lets a package of the program import beside the project's own ones.
