@@ -22,6 +22,7 @@ var ways = map[string][]string{
 	"nat":   {"closure", "three-index"},
 	"mont":  {"range-function"},
 	"rsa":   {"variadic"},
+	"flash": {"closure"},
 }
 
 // library is what LANGUAGE.md lets a package of the program import beside the project's own ones.
