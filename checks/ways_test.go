@@ -23,6 +23,7 @@ var ways = map[string][]string{
 	"mont":  {"range-function"},
 	"rsa":   {"variadic"},
 	"flash": {"closure"},
+	"bank":  {"range-function"},
 }
 
 // library is what LANGUAGE.md lets a package of the program import beside the project's own ones.
