@@ -24,6 +24,7 @@ var ways = map[string][]string{
 	"rsa":   {"variadic"},
 	"flash": {"closure"},
 	"bank":  {"range-function"},
+	"nvram": {"closure", "array"},
 }
 
 // library is what LANGUAGE.md lets a package of the program import beside the project's own ones.
