@@ -25,6 +25,7 @@ var ways = map[string][]string{
 	"flash": {"closure"},
 	"bank":  {"range-function"},
 	"nvram": {"closure", "array"},
+	"der":   {"range-function", "variadic"},
 }
 
 // library is what LANGUAGE.md lets a package of the program import beside the project's own ones.
