@@ -26,6 +26,7 @@ var ways = map[string][]string{
 	"bank":  {"range-function"},
 	"nvram": {"closure", "array"},
 	"der":   {"range-function", "variadic"},
+	"stamp": {"array", "closure", "struct-compared"},
 }
 
 // library is what LANGUAGE.md lets a package of the program import beside the project's own ones.
