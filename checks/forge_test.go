@@ -3,6 +3,7 @@ package checks
 import (
 	"crypto/sha256"
 	"math/big"
+	"slices"
 
 	"lintel/api"
 )
@@ -56,4 +57,98 @@ func (p pair) signDigest(digest [32]byte) []byte {
 	m := new(big.Int).SetBytes(encoded(digest, len(p.key.N)))
 	m.Exp(m, p.d, new(big.Int).SetBytes(p.key.N))
 	return m.FillBytes(make([]byte, len(p.key.N)))
+}
+
+// tlv is an element, written apart from the program.
+func tlv(tag byte, parts ...[]byte) []byte {
+	body := slices.Concat(parts...)
+	head := []byte{tag}
+	switch n := len(body); {
+	case n < 128:
+		head = append(head, byte(n))
+	case n < 256:
+		head = append(head, 0x81, byte(n))
+	case n < 65536:
+		head = append(head, 0x82, byte(n>>8), byte(n))
+	default:
+		head = append(head, 0x83, byte(n>>16), byte(n>>8), byte(n))
+	}
+	return append(head, body...)
+}
+
+func seq(parts ...[]byte) []byte { return tlv(0x30, parts...) }
+
+// integer is the INTEGER of a number.
+func integer(n *big.Int) []byte {
+	b := n.Bytes()
+	if len(b) == 0 || b[0] >= 0x80 {
+		b = append([]byte{0}, b...)
+	}
+	return tlv(2, b)
+}
+
+func bits(whole []byte) []byte { return tlv(3, []byte{0}, whole) }
+
+var (
+	null       = unhex("0500")
+	signMethod = seq(unhex("06092a864886f70d01010b"), null)
+	keyMethod  = seq(unhex("06092a864886f70d010101"), null)
+)
+
+// named is a name, as certificates have them.
+func named(s string) []byte {
+	return seq(tlv(0x31, seq(unhex("0603550403"), tlv(0x0c, []byte(s)))))
+}
+
+// keyOf is a certificate's part that tells a key.
+func keyOf(k api.Key) []byte {
+	return seq(keyMethod, bits(seq(integer(new(big.Int).SetBytes(k.N)), integer(new(big.Int).SetUint64(k.E)))))
+}
+
+// certForm are the elements of a certificate, each of which a test may replace.
+type certForm struct {
+	version, serial, sign, issuer, span, subject, key []byte
+	exts                                              []byte // with its tag; none: nothing
+	behind                                            []byte // what stands behind these
+	outer, sig                                        []byte
+}
+
+func (f certForm) tbs() []byte {
+	return seq(f.version, f.serial, f.sign, f.issuer, f.span, f.subject, f.key, f.exts, f.behind)
+}
+
+func (f certForm) bytes() []byte { return seq(f.tbs(), f.outer, f.sig) }
+
+// span is two moments of twelve digits.
+func span(from, to string) []byte {
+	return seq(tlv(0x17, []byte(from+"Z")), tlv(0x17, []byte(to+"Z")))
+}
+
+// plainCert is a form that is right, with a signature that isn't.
+func plainCert(issuer, subject string, k api.Key, exts ...[]byte) certForm {
+	f := certForm{
+		version: unhex("a003020102"), serial: unhex("020105"), sign: signMethod, issuer: named(issuer), span: span("200102030405", "300102030405"),
+		subject: named(subject), key: keyOf(k), outer: signMethod, sig: bits([]byte{1, 2, 3}),
+	}
+	if len(exts) > 0 {
+		f.exts = tlv(0xa3, seq(exts...))
+	}
+	return f
+}
+
+// extension is one with the last arcs of its OID behind 2.5.29, in an element of octets.
+func extension(last byte, critical bool, inner []byte) []byte {
+	truth := []byte(nil)
+	if critical {
+		truth = unhex("0101ff")
+	}
+	return seq(tlv(6, []byte{0x55, 0x1d, last}), truth, tlv(4, inner))
+}
+
+// caExt says that a certificate may sign others; path below 0: without an end.
+func caExt(path int) []byte {
+	if path < 0 {
+		return extension(19, true, unhex("30030101ff"))
+	}
+	return extension(19, true, seq(unhex("0101ff"), integer(big.NewInt(int64(path)))))
 }

@@ -27,6 +27,7 @@ var ways = map[string][]string{
 	"nvram": {"closure", "array"},
 	"der":   {"range-function", "variadic"},
 	"stamp": {"array", "closure", "struct-compared"},
+	"cert":  {"panic", "defer", "recover", "assertion"},
 }
 
 // library is what LANGUAGE.md lets a package of the program import beside the project's own ones.
