@@ -28,6 +28,7 @@ var ways = map[string][]string{
 	"der":   {"range-function", "variadic"},
 	"stamp": {"array", "closure", "struct-compared"},
 	"cert":  {"panic", "defer", "recover", "assertion"},
+	"chain": {"map", "array", "array-key", "closure", "delete"},
 }
 
 // library is what LANGUAGE.md lets a package of the program import beside the project's own ones.
