@@ -1,6 +1,7 @@
 package checks
 
 import (
+	"bytes"
 	"crypto/sha256"
 	"math/big"
 	"slices"
@@ -151,4 +152,66 @@ func caExt(path int) []byte {
 		return extension(19, true, unhex("30030101ff"))
 	}
 	return extension(19, true, seq(unhex("0101ff"), integer(big.NewInt(int64(path)))))
+}
+
+var (
+	shaMethod  = seq(unhex("0609608648016503040201"), null)
+	shaBare    = seq(unhex("0609608648016503040201"))
+	oidPlain   = unhex("06092a864886f70d010701") // the kind of content that is bytes
+	oidSigned  = unhex("06092a864886f70d010702")
+	oidCode    = unhex("060a2b060104018237020104") // the kind of content that is an image's digest
+	oidPEData  = unhex("060a2b06010401823702010f")
+	oidKindOf  = unhex("06092a864886f70d010903")
+	oidDigest  = unhex("06092a864886f70d010904")
+	oneInteger = unhex("020101")
+)
+
+// inOrder are parts in the order of a set.
+func inOrder(parts ...[]byte) []byte {
+	sorted := slices.Clone(parts)
+	slices.SortFunc(sorted, bytes.Compare)
+	return slices.Concat(sorted...)
+}
+
+// attribute is one with an OID and a value.
+func attribute(oid, value []byte) []byte { return seq(oid, tlv(0x31, value)) }
+
+// attributes are those of a kind (an OID) and a digest, as the body of a set.
+func attributes(kind []byte, digest [32]byte) []byte {
+	return inOrder(attribute(oidKindOf, kind), attribute(oidDigest, tlv(4, digest[:])))
+}
+
+// signerForm are the elements of a signer, each of which a test may replace.
+type signerForm struct {
+	version, name, digest, attrs, method, sig []byte
+}
+
+func (f signerForm) bytes() []byte {
+	return seq(f.version, f.name, f.digest, f.attrs, f.method, f.sig)
+}
+
+// plainSigner is a signer of an issuer's name and a serial's body.
+func plainSigner(issuer string, serial byte, sig []byte) signerForm {
+	return signerForm{version: oneInteger, name: seq(named(issuer), tlv(2, []byte{serial})), digest: shaMethod, method: keyMethod, sig: tlv(4, sig)}
+}
+
+// signedForm are the elements of signed data.
+type signedForm struct {
+	version, methods, content, certs, signers, behind []byte
+}
+
+func (f signedForm) bytes() []byte {
+	return seq(f.version, f.methods, f.content, f.certs, f.signers, f.behind)
+}
+
+// wrapped is the same, wrapped.
+func (f signedForm) wrapped() []byte { return seq(oidSigned, tlv(0xa0, f.bytes())) }
+
+// plainSigned is signed data of a content (all parts of its SEQ), certificates and signers.
+func plainSigned(content []byte, certs [][]byte, signers ...[]byte) signedForm {
+	f := signedForm{version: oneInteger, methods: tlv(0x31, shaMethod), content: seq(content), signers: tlv(0x31, inOrder(signers...))}
+	if len(certs) > 0 {
+		f.certs = tlv(0xa0, certs...)
+	}
+	return f
 }

@@ -63,3 +63,18 @@ func spoil(b []byte) {
 		b[i] ^= 0x5a
 	}
 }
+
+// apart fails the test if two of these lists, or the room behind them, are one memory.
+func apart(t *testing.T, what string, lists ...[]byte) {
+	t.Helper()
+	for i, l := range lists {
+		for j, other := range lists {
+			before := bytes.Clone(other)
+			spoil(l)
+			if i != j && !bytes.Equal(other, before) {
+				t.Errorf("%s: the lists %d and %d share memory", what, i, j)
+			}
+			spoil(l)
+		}
+	}
+}

@@ -29,6 +29,7 @@ var ways = map[string][]string{
 	"stamp": {"array", "closure", "struct-compared"},
 	"cert":  {"panic", "defer", "recover", "assertion"},
 	"chain": {"map", "array", "array-key", "closure", "delete"},
+	"cms":   {"generic-function", "method-value"},
 }
 
 // library is what LANGUAGE.md lets a package of the program import beside the project's own ones.
