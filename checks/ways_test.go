@@ -16,20 +16,21 @@ import (
 
 // ways are the ways of the language that the document's section 'Ways' asks of each layer.
 var ways = map[string][]string{
-	"octet": {"closure", "array", "range-string"},
-	"crc":   {"table", "array", "shift", "range-integer"},
-	"sha":   {"closure", "array"},
-	"nat":   {"closure", "three-index"},
-	"mont":  {"range-function"},
-	"rsa":   {"variadic"},
-	"flash": {"closure"},
-	"bank":  {"range-function"},
-	"nvram": {"closure", "array"},
-	"der":   {"range-function", "variadic"},
-	"stamp": {"array", "closure", "struct-compared"},
-	"cert":  {"panic", "defer", "recover", "assertion"},
-	"chain": {"map", "array", "array-key", "closure", "delete"},
-	"cms":   {"generic-function", "method-value"},
+	"octet":  {"closure", "array", "range-string"},
+	"crc":    {"table", "array", "shift", "range-integer"},
+	"sha":    {"closure", "array"},
+	"nat":    {"closure", "three-index"},
+	"mont":   {"range-function"},
+	"rsa":    {"variadic"},
+	"flash":  {"closure"},
+	"bank":   {"range-function"},
+	"nvram":  {"closure", "array"},
+	"der":    {"range-function", "variadic"},
+	"stamp":  {"array", "closure", "struct-compared"},
+	"cert":   {"panic", "defer", "recover", "assertion"},
+	"chain":  {"map", "array", "array-key", "closure", "delete"},
+	"cms":    {"generic-function", "method-value"},
+	"signer": {"closure", "range-function"},
 }
 
 // library is what LANGUAGE.md lets a package of the program import beside the project's own ones.
