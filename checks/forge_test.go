@@ -3,6 +3,7 @@ package checks
 import (
 	"bytes"
 	"crypto/sha256"
+	"encoding/binary"
 	"math/big"
 	"slices"
 
@@ -214,4 +215,85 @@ func plainSigned(content []byte, certs [][]byte, signers ...[]byte) signedForm {
 		f.certs = tlv(0xa0, certs...)
 	}
 	return f
+}
+
+// imageForm is an image that is made as a test wants it.
+type imageForm struct {
+	pe       int // where `PE` stands
+	plus     bool
+	dirs     int      // entries of the directories
+	count    int      // sections, as told; those that are not laid have no bytes
+	headers  int      // how many bytes the headers have
+	sections [][2]int // from where, and how many bytes
+	length   int      // of the whole without a certificate table
+	sigs     [][]byte
+	fill     byte // what all other bytes are
+}
+
+// plainImage has headers of 400 bytes, a section of 8 and 4 bytes behind it.
+func plainImage(sigs ...[]byte) imageForm {
+	return imageForm{pe: 64, dirs: 5, count: 1, headers: 400, sections: [][2]int{{400, 8}}, length: 412, sigs: sigs}
+}
+
+// optional is where the optional header begins; dir where the entry of the certificate table stands; table where the sections' table begins.
+func (f imageForm) optional() int { return f.pe + 24 }
+
+func (f imageForm) dirsAt() int {
+	if f.plus {
+		return f.optional() + 112
+	}
+	return f.optional() + 96
+}
+
+func (f imageForm) dir() int { return f.dirsAt() + 32 }
+
+func (f imageForm) table() int { return f.dirsAt() + 8*f.dirs }
+
+// row is one of a certificate table.
+func row(sig []byte) []byte {
+	b := binary.LittleEndian.AppendUint32(nil, uint32(len(sig)+8))
+	b = append(append(b, 0, 2, 2, 0), sig...)
+	for len(b)%8 != 0 {
+		b = append(b, 0)
+	}
+	return b
+}
+
+func (f imageForm) bytes() []byte {
+	b := bytes.Repeat([]byte{f.fill}, f.length)
+	le := binary.LittleEndian
+	copy(b, "MZ")
+	le.PutUint32(b[60:], uint32(f.pe))
+	copy(b[f.pe:], "PE\x00\x00")
+	le.PutUint16(b[f.pe+6:], uint16(f.count))
+	le.PutUint16(b[f.pe+20:], uint16(f.table()-f.optional()))
+	magic := uint16(0x10b)
+	if f.plus {
+		magic = 0x20b
+	}
+	le.PutUint16(b[f.optional():], magic)
+	le.PutUint32(b[f.optional()+60:], uint32(f.headers))
+	le.PutUint32(b[f.dirsAt()-4:], uint32(f.dirs))
+	le.PutUint64(b[f.dir():], 0)
+	for i := range f.count {
+		var s [2]int
+		if i < len(f.sections) {
+			s = f.sections[i]
+		}
+		le.PutUint32(b[f.table()+40*i+16:], uint32(s[1]))
+		le.PutUint32(b[f.table()+40*i+20:], uint32(s[0]))
+	}
+	if len(f.sigs) == 0 {
+		return b
+	}
+	for len(b)%8 != 0 {
+		b = append(b, 0)
+	}
+	at := len(b)
+	for _, s := range f.sigs {
+		b = append(b, row(s)...)
+	}
+	le.PutUint32(b[f.dir():], uint32(at))
+	le.PutUint32(b[f.dir()+4:], uint32(len(b)-at))
+	return b
 }

@@ -31,6 +31,7 @@ var ways = map[string][]string{
 	"chain":  {"map", "array", "array-key", "closure", "delete"},
 	"cms":    {"generic-function", "method-value"},
 	"signer": {"closure", "range-function"},
+	"pe":     {"closure", "range-function"},
 }
 
 // library is what LANGUAGE.md lets a package of the program import beside the project's own ones.
