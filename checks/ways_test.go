@@ -33,6 +33,7 @@ var ways = map[string][]string{
 	"signer":  {"closure", "range-function"},
 	"pe":      {"closure", "range-function"},
 	"measure": {"range-function", "method-value"},
+	"siglist": {"map", "struct-key"},
 }
 
 // library is what LANGUAGE.md lets a package of the program import beside the project's own ones.
