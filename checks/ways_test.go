@@ -34,6 +34,7 @@ var ways = map[string][]string{
 	"pe":      {"closure", "range-function"},
 	"measure": {"range-function", "method-value"},
 	"siglist": {"map", "struct-key"},
+	"vname":   {"map", "struct-key", "array"},
 }
 
 // library is what LANGUAGE.md lets a package of the program import beside the project's own ones.
