@@ -35,6 +35,7 @@ var ways = map[string][]string{
 	"measure": {"range-function", "method-value"},
 	"siglist": {"map", "struct-key"},
 	"vname":   {"map", "struct-key", "array"},
+	"descr":   {"closure"},
 }
 
 // library is what LANGUAGE.md lets a package of the program import beside the project's own ones.
