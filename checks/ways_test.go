@@ -36,6 +36,7 @@ var ways = map[string][]string{
 	"siglist": {"map", "struct-key"},
 	"vname":   {"map", "struct-key", "array"},
 	"descr":   {"closure"},
+	"keep":    {"range-function"},
 }
 
 // library is what LANGUAGE.md lets a package of the program import beside the project's own ones.
