@@ -297,3 +297,50 @@ func (f imageForm) bytes() []byte {
 	le.PutUint32(b[f.dir()+4:], uint32(len(b)-at))
 	return b
 }
+
+// person is somebody with a name, a key and a certificate, who signs.
+type person struct {
+	name, issuer string
+	serial       byte
+	key          pair
+	cert         []byte
+}
+
+// newPerson has a certificate by another one; without one it is signed by itself.
+func newPerson(name string, key pair, by *person, exts ...[]byte) *person {
+	p := &person{name: name, issuer: name, serial: 5, key: key}
+	signs := key
+	if by != nil {
+		p.issuer, signs = by.name, by.key
+	}
+	f := plainCert(p.issuer, name, key.key, exts...)
+	f.sig = bits(signs.sign(f.tbs()))
+	p.cert = f.bytes()
+	return p
+}
+
+// signs is a signer of a person over the digest of a content of a kind: with attributes or without.
+func (p *person) signs(kind []byte, digest [32]byte, withAttrs bool) []byte {
+	f := plainSigner(p.issuer, p.serial, nil)
+	if !withAttrs {
+		f.sig = tlv(4, p.key.signDigest(digest))
+		return f.bytes()
+	}
+	attrs := attributes(kind, digest)
+	f.attrs, f.sig = tlv(0xa0, attrs), tlv(4, p.key.sign(tlv(0x31, attrs)))
+	return f.bytes()
+}
+
+// blobOf is signed data over a text by a person, with further certificates.
+func (p *person) blobOf(text []byte, more ...[]byte) []byte {
+	certs := append([][]byte{p.cert}, more...)
+	return plainSigned(oidPlain, certs, p.signs(oidPlain, sha256.Sum256(text), true)).bytes()
+}
+
+// Those who sign in tests: the owner of the platform, who may turn PK and KEK; one with a KEK, and one whom he lets sign; one of whom nobody knows.
+var (
+	owner    = newPerson("owner", pairA, nil, caExt(-1))
+	keeper   = newPerson("keeper", pairB, nil, caExt(-1))
+	deputy   = newPerson("deputy", pairC, keeper)
+	stranger = newPerson("stranger", pairC, nil, caExt(-1))
+)

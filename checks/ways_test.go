@@ -37,6 +37,7 @@ var ways = map[string][]string{
 	"vname":   {"map", "struct-key", "array"},
 	"descr":   {"closure"},
 	"keep":    {"range-function"},
+	"rule":    {"closure", "range-function"},
 }
 
 // library is what LANGUAGE.md lets a package of the program import beside the project's own ones.
