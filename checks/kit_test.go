@@ -3,6 +3,7 @@ package checks
 
 import (
 	"bytes"
+	"crypto/sha256"
 	"encoding/hex"
 	"math/rand"
 	"strings"
@@ -78,3 +79,6 @@ func apart(t *testing.T, what string, lists ...[]byte) {
 		}
 	}
 }
+
+// sum is a digest that is reckoned apart from the program.
+func sum(b []byte) [32]byte { return sha256.Sum256(b) }

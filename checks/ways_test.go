@@ -38,6 +38,7 @@ var ways = map[string][]string{
 	"descr":   {"closure"},
 	"keep":    {"range-function"},
 	"rule":    {"closure", "range-function"},
+	"vars":    {"method-value"},
 }
 
 // library is what LANGUAGE.md lets a package of the program import beside the project's own ones.
