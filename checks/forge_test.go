@@ -8,6 +8,7 @@ import (
 	"slices"
 
 	"lintel/api"
+	"lintel/cert"
 )
 
 // encoded is the encoded message of a digest, written apart from the program.
@@ -344,3 +345,60 @@ var (
 	deputy   = newPerson("deputy", pairC, keeper)
 	stranger = newPerson("stranger", pairC, nil, caExt(-1))
 )
+
+// digest is that of the image, which its signatures do not turn; its length must be a multiple of 8.
+func (f imageForm) digest() [32]byte {
+	f.sigs = nil
+	b := f.bytes()
+	if len(b)%8 != 0 {
+		panic("an image that a certificate table makes longer")
+	}
+	check := f.optional() + 64
+	return sum(slices.Concat(b[:check], b[check+4:f.dir()], b[f.dir()+8:]))
+}
+
+// codeContent is what signatures of images sign: their digest.
+func codeContent(digest [32]byte) []byte {
+	return seq(seq(oidPEData, seq()), seq(shaMethod, tlv(4, digest[:])))
+}
+
+// codeBlob is signed data that tells an image's digest, of certificates and signers, each of which signs the digest of that content.
+func codeBlob(digest [32]byte, certs [][]byte, signers ...func(own [32]byte) []byte) []byte {
+	content := codeContent(digest)
+	own := sum(content[2:]) // the content has fewer than 128 bytes
+	var l [][]byte
+	for _, s := range signers {
+		l = append(l, s(own))
+	}
+	return plainSigned(slices.Concat(oidCode, tlv(0xa0, content)), certs, l...).bytes()
+}
+
+// code is how a person signs images.
+func (p *person) code(own [32]byte) []byte { return p.signs(oidCode, own, true) }
+
+// image is one whose bytes are told by a number, signed by persons, each in a blob of its own with these certificates.
+func image(fill byte, certs [][]byte, signers ...*person) []byte {
+	f := plainImage()
+	f.length, f.fill = 416, fill
+	d := f.digest()
+	for _, s := range signers {
+		f.sigs = append(f.sigs, codeBlob(d, append([][]byte{s.cert}, certs...), s.code))
+	}
+	return f.bytes()
+}
+
+// imageDigest is the digest of image(fill, ..).
+func imageDigest(fill byte) [32]byte {
+	f := plainImage()
+	f.length, f.fill = 416, fill
+	return f.digest()
+}
+
+// digestList is a list of one digest.
+func digestList(d [32]byte) []byte { return listBytes(listGuids[api.KindHash], 1, d[:]) }
+
+// partOf is the digest of a certificate's signed part.
+func partOf(c []byte) [32]byte {
+	x, _ := cert.Parse(c)
+	return sum(x.Tbs)
+}

@@ -39,6 +39,7 @@ var ways = map[string][]string{
 	"keep":    {"range-function"},
 	"rule":    {"closure", "range-function"},
 	"vars":    {"method-value"},
+	"admit":   {"closure", "range-function"},
 }
 
 // library is what LANGUAGE.md lets a package of the program import beside the project's own ones.
