@@ -40,6 +40,7 @@ var ways = map[string][]string{
 	"rule":    {"closure", "range-function"},
 	"vars":    {"method-value"},
 	"admit":   {"closure", "range-function"},
+	"option":  {"closure"},
 }
 
 // library is what LANGUAGE.md lets a package of the program import beside the project's own ones.
