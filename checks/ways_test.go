@@ -41,6 +41,7 @@ var ways = map[string][]string{
 	"vars":    {"method-value"},
 	"admit":   {"closure", "range-function"},
 	"option":  {"closure"},
+	"boot":    {"range-function"},
 }
 
 // library is what LANGUAGE.md lets a package of the program import beside the project's own ones.
