@@ -42,6 +42,7 @@ var ways = map[string][]string{
 	"admit":   {"closure", "range-function"},
 	"option":  {"closure"},
 	"boot":    {"range-function"},
+	"machine": {"method-value"},
 }
 
 // library is what LANGUAGE.md lets a package of the program import beside the project's own ones.
