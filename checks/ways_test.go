@@ -43,6 +43,7 @@ var ways = map[string][]string{
 	"option":  {"closure"},
 	"boot":    {"range-function"},
 	"machine": {"method-value"},
+	"script":  {"interface", "interface-call", "copy", "array-compared"},
 }
 
 // library is what LANGUAGE.md lets a package of the program import beside the project's own ones.
