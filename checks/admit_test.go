@@ -134,6 +134,8 @@ func TestAdmitSigners(t *testing.T) {
 		"one who may not sign code":       {with(oidCode, content, serverOnly, serverOnly.code(own)), serverOnly, false},
 		"one whose key is for other uses": {with(oidCode, content, noUse, noUse.code(own)), noUse, true},
 		"another kind":                    {with(oidPlain, content, owner, owner.signs(oidPlain, own, true)), owner, false},
+		"another kind, attributes":        {with(oidPlain, content, owner, owner.code(own)), owner, false},
+		"another kind, no attributes":     {with(oidPlain, content, owner, owner.signs(oidCode, own, false)), owner, false},
 		"attributes of another kind":      {with(oidCode, content, owner, owner.signs(oidPlain, own, true)), owner, false},
 		"no content":                      {with(oidCode, nil, owner, owner.code(own)), owner, false},
 		"the content of another image":    {with(oidCode, codeContent([32]byte{1}), owner, owner.code(sum(codeContent([32]byte{1})[2:]))), owner, false},

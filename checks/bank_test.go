@@ -91,10 +91,13 @@ func TestBankNone(t *testing.T) {
 	wantErr(t, "R4: Ready", b.Ready(), api.ErrNil)
 	wantErr(t, "R4: Add", b.Add(nil, nil), api.ErrNil)
 	wantErr(t, "R4: Kill", b.Kill(-1), api.ErrNil)
-	_, _, e := b.Head()
+	gen, ready, e := b.Head()
 	wantErr(t, "R4: Head", e, api.ErrNil)
-	_, _, _, e = b.Scan()
+	l, end, whole, e := b.Scan()
 	wantErr(t, "R4: Scan", e, api.ErrNil)
+	if gen != 0 || ready || len(l) != 0 || end != 0 || whole {
+		t.Errorf("R2: something beside an error")
+	}
 	if b.Room() != 0 {
 		t.Errorf("R4: Room: %d", b.Room())
 	}
@@ -137,8 +140,11 @@ func TestBankHead(t *testing.T) {
 	for n := range 3 {
 		f.Arm(1+n, 0)
 		wantErr(t, "P8.2: Format without power", b.Format(9), api.ErrDead)
-		_, _, e := b.Head()
+		gen, ready, e := b.Head()
 		wantErr(t, "P8.2: Head without power", e, api.ErrDead)
+		if gen != 0 || ready {
+			t.Errorf("R2: Head without power: %d, %v", gen, ready)
+		}
 		wantErr(t, "P8.2: Ready without power", b.Ready(), api.ErrDead)
 		f.On()
 	}
@@ -228,6 +234,7 @@ func TestBankScan(t *testing.T) {
 		}
 		wantErr(t, "P8.4: Kill, "+what, b.Kill(len(c.want)), api.ErrArg)
 	}
+	edges(t)
 	f := newFlash(t, 2, 65536)
 	b, _ := bank.At(f, 0, 2)
 	f.Program(16, rawRecord(0xfc, make([]byte, 256), nil))
@@ -235,6 +242,27 @@ func TestBankScan(t *testing.T) {
 	f.Erase(0)
 	f.Program(16, rawRecord(0xfc, []byte("k"), make([]byte, 65537)))
 	wantScan(t, "P8.3: a value of 65537 bytes", b, nil, 16, false)
+}
+
+// edges are records at the end of a bank behind which other sectors are.
+func edges(t *testing.T) {
+	t.Helper()
+	for _, left := range []int{0, 1, 11, 12, 13} {
+		f := newFlash(t, 3, 64)
+		b, _ := bank.At(f, 1, 1)
+		first := rawRecord(0xfc, []byte("k"), make([]byte, 48-13-left))
+		f.Program(64+16, first)
+		want := []string{"k=" + string(make([]byte, 48-13-left))}
+		wantScan(t, "P8.3: room at the end", b, want, 64-left, true)
+		wantErr(t, "P8.4: Add where the bank has no room", b.Add([]byte("k"), make([]byte, 40)), api.ErrFull)
+		if left == 0 {
+			f.Program(128, rawRecord(0xfc, []byte("l"), nil))
+			wantScan(t, "P8.3: a record behind the bank", b, want, 64, true)
+			continue
+		}
+		f.Program(128-left, rawRecord(0xfc, []byte("l"), make([]byte, 20)))
+		wantScan(t, "P8.3: a record that goes on behind the bank", b, want, 64-left, false)
+	}
 }
 
 func TestBankAnswersAreNewMemory(t *testing.T) {

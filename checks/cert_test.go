@@ -237,6 +237,7 @@ func TestCertExtensions(t *testing.T) {
 		"constraints, two":      {extension(19, true, unhex("30003000"))},
 		"constraints, none":     {extension(19, true, nil)},
 		"constraints, a set":    {extension(19, true, unhex("3100"))},
+		"constraints, no bool":  {extension(19, true, unhex("30030201ff"))},
 		"constraints, false":    {extension(19, true, unhex("3003010100"))},
 		"constraints, path":     {extension(19, true, unhex("3003020103"))},
 		"constraints, 256":      {extension(19, true, unhex("30070101ff02020100"))},

@@ -42,6 +42,9 @@ func TestDerParse(t *testing.T) {
 			t.Errorf("P10.1: Parse of %s: %x, %x, %d", s, x, rest, e)
 		}
 	}
+	if _, _, e := der.Parse(append(unhex("0480"), make([]byte, 300)...)); e != api.ErrForm {
+		t.Errorf("P10.1: Parse of 04 80 and 300 bytes: %d", e)
+	}
 	// Numbers that would be right lengths, were their first byte not 0, or were they not below 80.
 	for _, head := range []string{"04820080", "0481007f", "04817f", "0483000100", "048400010000"} {
 		if _, _, e := der.Parse(append(unhex(head), make([]byte, 70000)...)); e != api.ErrForm {

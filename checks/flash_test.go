@@ -98,6 +98,7 @@ func TestFlashProgramAndErase(t *testing.T) {
 	for _, at := range []int{-1, 32, 31, math.MaxInt, math.MinInt} {
 		wantErr(t, "P7.3: Program outside", f.Program(at, []byte{0, 0}), api.ErrArg)
 	}
+	wantErr(t, "P7.3: Program of a byte behind the end", f.Program(32, []byte{0}), api.ErrArg)
 	wantErr(t, "P7.3: Program of nothing", f.Program(0, nil), 0)
 	wantErr(t, "P7.3: Program of nothing behind the end: no byte lies there", f.Program(40, nil), 0)
 	wantErr(t, "P7.3: Program of nothing below 0", f.Program(-1, nil), api.ErrArg)

@@ -60,12 +60,12 @@ func TestKeepOpen(t *testing.T) {
 	wantErr(t, "R4: Next", e, api.ErrNil)
 	_, _, e = none.Next(" ", api.Guid{})
 	wantErr(t, "R4: Next", e, api.ErrNil)
-	_, e = none.Mark()
+	mark, e := none.Mark()
 	wantErr(t, "R4: Mark", e, api.ErrNil)
 	wantErr(t, "R4: SetMark", none.SetMark(1), api.ErrNil)
-	_, e = none.Used()
+	used, e := none.Used()
 	wantErr(t, "R4: Used", e, api.ErrNil)
-	if none.Room() != 0 {
+	if none.Room() != 0 || mark != 0 || used != 0 {
 		t.Errorf("R4: Room")
 	}
 }

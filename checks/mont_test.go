@@ -134,6 +134,23 @@ func montLaws(t *testing.T, k *mont.Mod, x, y, a, b []uint32) {
 	}
 }
 
+// All products and some powers by small numbers, many of which are products themselves.
+func TestMontSmall(t *testing.T) {
+	for m := uint32(3); m < 48; m += 2 {
+		k, _ := mont.New([]uint32{m})
+		for x := range m {
+			for y := range m {
+				if got, e := k.Mul(limbsOf(big.NewInt(int64(x))), limbsOf(big.NewInt(int64(y)))); e != 0 || bigOf(got).Uint64() != uint64(x*y%m) {
+					t.Fatalf("P5.2: Mul(%d, %d) by %d: %x, %d", x, y, m, got, e)
+				}
+			}
+			if got, e := k.Exp(limbsOf(big.NewInt(int64(x))), []uint32{2}); e != 0 || bigOf(got).Uint64() != uint64(x*x%m) {
+				t.Fatalf("P5.2: Exp(%d, 2) by %d: %x, %d", x, m, got, e)
+			}
+		}
+	}
+}
+
 func TestMontGreatest(t *testing.T) {
 	r := random(9)
 	m := full(128)

@@ -89,9 +89,9 @@ func TestNvramNone(t *testing.T) {
 	wantErr(t, "R4: Delete", s.Delete(nil), api.ErrNil)
 	_, e = s.Keys()
 	wantErr(t, "R4: Keys", e, api.ErrNil)
-	_, e = s.Used()
+	used, e := s.Used()
 	wantErr(t, "R4: Used", e, api.ErrNil)
-	if s.Room() != 0 || ok {
+	if s.Room() != 0 || ok || used != 0 {
 		t.Errorf("R4: Room: %d", s.Room())
 	}
 }
@@ -137,16 +137,18 @@ func TestNvramArgs(t *testing.T) {
 	wantStore(t, "R3", s, map[string]string{string(bytes.Repeat([]byte("k"), 255)): string(make([]byte, 65536))})
 	f.Arm(1, 0)
 	f.Erase(3)
-	wantErr(t, "P9.3: ErrArg goes ahead of ErrDead", s.Set(nil, nil), api.ErrArg)
+	for _, c := range [][2]int{{0, 0}, {256, 0}, {1, 65537}} {
+		wantErr(t, "P9.3: ErrArg goes ahead of ErrDead", s.Set(make([]byte, c[0]), make([]byte, c[1])), api.ErrArg)
+	}
 	wantErr(t, "P9.3: ErrDead goes ahead of ErrFull", s.Set(key, value), api.ErrDead)
 	wantErr(t, "P9.4: Delete without power", s.Delete(nil), api.ErrDead)
 	_, _, e = s.Get(nil)
 	wantErr(t, "P9.2: Get without power", e, api.ErrDead)
 	_, e = s.Keys()
 	wantErr(t, "P9.2: Keys without power", e, api.ErrDead)
-	_, e = s.Used()
+	used, e := s.Used()
 	wantErr(t, "P9.2: Used without power", e, api.ErrDead)
-	if s.Room() != 131056 {
+	if s.Room() != 131056 || used != 0 {
 		t.Errorf("P9.2: Room without power: %d", s.Room())
 	}
 }
@@ -363,4 +365,17 @@ func same(a, b map[string]string) bool {
 		}
 	}
 	return len(a) == len(b)
+}
+
+// A store under which somebody has erased the flash is empty, and takes nothing until it is opened again.
+func TestNvramErased(t *testing.T) {
+	f := newFlash(t, 2, 64)
+	s := openStore(t, f)
+	wantErr(t, "P9.3: Set", s.Set([]byte("a"), nil), 0)
+	f.Erase(0)
+	wantStore(t, "of an erased flash", s, nil)
+	wantErr(t, "Set to an erased flash", s.Set([]byte("a"), nil), api.ErrState)
+	wantErr(t, "Delete of an erased flash", s.Delete([]byte("a")), api.ErrNone)
+	wantStore(t, "P9.1: opened again", openStore(t, f), nil)
+	wantErr(t, "P9.3: Set", s.Set([]byte("a"), nil), 0)
 }

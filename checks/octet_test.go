@@ -98,7 +98,7 @@ func TestOctetPutIsGot(t *testing.T) {
 func TestOctetTexts(t *testing.T) {
 	for s, want := range map[string]string{
 		"AB": "A\x00B\x00", "": "", "\x7f": "\x7f\x00", "\x01": "\x01\x00",
-		"A\x00": "", "\x00": "", "é": "", "Aé": "", "\x80": "", "A\xff": "", "\xc3": "",
+		"A\x00": "", "\x00": "", "é": "", "Aé": "", "\x80": "", "A\xff": "", "\xc3": "", "\u0080": "", "\U0010ffff": "",
 	} {
 		equal(t, "P1.3: Wide", octet.Wide(s), []byte(want))
 	}

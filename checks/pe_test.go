@@ -115,6 +115,9 @@ func TestPeHeaders(t *testing.T) {
 	for n := range 264 {
 		wrongImage(t, "P16.2: cut", bare.bytes()[:n], api.ErrForm)
 	}
+	for _, f := range []imageForm{{pe: 64, dirs: 5, count: 1, headers: 263, sections: [][2]int{{263, 41}}, length: 304}, {pe: 64, dirs: 5, count: 2, headers: 303, length: 304}, {pe: 64, dirs: 5, count: 1, headers: 263, length: 304}} {
+		wrongImage(t, "P16.2: headers without room for the sections' table", f.bytes(), api.ErrForm)
+	}
 	many := imageForm{pe: 64, dirs: 16, count: 96, headers: 4200, length: 4200 + 960, fill: 9}
 	want := api.Image{Check: 152, Dir: 216, Headers: 4200}
 	for i := range 96 {
@@ -188,6 +191,11 @@ func TestPeTable(t *testing.T) {
 	wantImage(t, "P16.4: a table right behind the headers", bare.bytes(), api.Image{Check: 152, Dir: 216, Headers: 264, Table: 264, Length: 16, Sigs: [][]byte{{9}}})
 	bare.headers, bare.length = 272, 272
 	wrongImage(t, "P16.4: a table in the headers", altered(altered(bare.bytes()[:280], bare.dir(), 4, 264), bare.dir()+4, 4, 16), api.ErrForm)
+	wrongImage(t, "P16.4: no length, at the end", altered(b, f.dir(), 8, uint64(len(b))), api.ErrForm)
+	odd := altered(plainImage().bytes(), f.dir(), 8, 412|16<<32)
+	wrongImage(t, "P16.4: right rows at a place of no 8", append(odd, row([]byte{9})...), api.ErrForm)
+	over := imageForm{pe: 64, dirs: 5, count: 1, headers: 400, sections: [][2]int{{400, 16}}, length: 400}
+	wrongImage(t, "P16.4: right rows in a section", altered(append(over.bytes(), row([]byte{9})...), f.dir(), 8, 400|16<<32), api.ErrForm)
 	eight := plainImage(slices.Repeat([][]byte{{7, 7}}, 8)...)
 	if x, e := pe.Parse(eight.bytes()); e != 0 || len(x.Sigs) != 8 {
 		t.Errorf("P16.4: eight rows: %d, %d", len(x.Sigs), e)

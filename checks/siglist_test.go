@@ -111,6 +111,8 @@ func TestSiglistRead(t *testing.T) {
 		"a cert of 8193":      listBytes(listGuids[api.KindCert], 1, make([]byte, 8193)),
 		"a sum of 47":         listBytes(listGuids[api.KindSum], 1, make([]byte, 47)),
 		"a sum of 32":         listBytes(listGuids[api.KindSum], 1, make([]byte, 32)),
+		"a sum of 5":          listBytes(listGuids[api.KindSum], 1, make([]byte, 5)),
+		"a sum of 49":         listBytes(listGuids[api.KindSum], 1, make([]byte, 49)),
 		"a sum of no time":    listBytes(listGuids[api.KindSum], 1, altered(make([]byte, 48), 47, 1, 1)),
 		"a sum of a bad time": listBytes(listGuids[api.KindSum], 1, altered(make([]byte, 48), 32, 2, 2024)),
 		"a second one bad":    append(bytes.Clone(h), altered(h, 20, 4, 1)...),
@@ -169,7 +171,7 @@ func TestSiglistWrite(t *testing.T) {
 	for what, l := range map[string]api.List{
 		"no kind": {Kind: 0, Items: []api.Item{item(32)}}, "the kind 4": {Kind: 4, Items: []api.Item{item(32)}}, "no items": {Kind: api.KindHash}, "a hash of 31": {Kind: api.KindHash, Items: []api.Item{item(31)}},
 		"a cert of 0": {Kind: api.KindCert, Items: []api.Item{item(0)}}, "a cert of 8193": {Kind: api.KindCert, Items: []api.Item{item(8193)}}, "two lengths": {Kind: api.KindCert, Items: []api.Item{item(3), item(4)}},
-		"a sum of 47": {Kind: api.KindSum, Items: []api.Item{item(47)}}, "a second hash of 33": {Kind: api.KindHash, Items: []api.Item{item(32), item(33)}},
+		"a sum of 47": {Kind: api.KindSum, Items: []api.Item{item(47)}}, "a sum of 0": {Kind: api.KindSum, Items: []api.Item{item(0)}}, "a second hash of 33": {Kind: api.KindHash, Items: []api.Item{item(32), item(33)}},
 		"a sum of a bad time": {Kind: api.KindSum, Items: []api.Item{{Data: altered(make([]byte, 48), 34, 1, 1)}}},
 	} {
 		for _, lists := range [][]api.List{{l}, {{Kind: api.KindHash, Items: []api.Item{item(32)}}, l}} {

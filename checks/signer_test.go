@@ -66,6 +66,10 @@ func TestSignerRight(t *testing.T) {
 			s.Signers[1].Attrs, s.Signers[1].Kind, s.Signers[1].Digest = s.Signers[0].Attrs, kind, digest[:]
 		}, -1},
 		{"attributes taken away", 0, kind, digest, func(s *api.Signed) { s.Signers[0].Attrs = nil }, -1},
+		{"attributes of one byte", 1, nil, digest, func(s *api.Signed) { s.Signers[1].Attrs = []byte{7} }, -1},
+		{"attributes of one byte, signed", 1, kind, digest, func(s *api.Signed) {
+			s.Signers[1].Attrs, s.Signers[1].Kind, s.Signers[1].Digest, s.Signers[1].Sig = []byte{7}, kind, digest[:], pairB.sign([]byte{7})
+		}, 3},
 		{"another signature", 1, kind, digest, func(s *api.Signed) { s.Signers[1].Sig[7] ^= 1 }, -1},
 		{"another name", 1, kind, digest, func(s *api.Signed) { s.Certs[3].Issuer = named("c") }, -1},
 		{"another number", 1, kind, digest, func(s *api.Signed) { s.Certs[3].Serial = []byte{0, 2} }, -1},

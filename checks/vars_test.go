@@ -142,16 +142,19 @@ func TestVarsOpen(t *testing.T) {
 	if v != nil {
 		t.Errorf("P23.1: Open answers something with an error")
 	}
-	_, e = v.Mode()
+	mode, e := v.Mode()
 	wantErr(t, "R4: Mode", e, api.ErrNil)
-	_, _, e = v.Get("", api.Guid{}, -1)
+	_, need, e := v.Get("", api.Guid{}, -1)
 	wantErr(t, "R4: Get", e, api.ErrNil)
 	_, _, e = v.Next(" ", api.Guid{})
 	wantErr(t, "R4: Next", e, api.ErrNil)
 	wantErr(t, "R4: Set", v.Set("", api.Guid{}, 0, nil), api.ErrNil)
 	wantErr(t, "R4: Drop", v.Drop("", api.Guid{}), api.ErrNil)
-	_, _, e = v.Info()
+	room, used, e := v.Info()
 	wantErr(t, "R4: Info", e, api.ErrNil)
+	if mode != 0 || need != 0 || room != 0 || used != 0 {
+		t.Errorf("R4: something of no variables: %d, %d, %d, %d", mode, need, room, used)
+	}
 }
 
 func TestVarsExample(t *testing.T) {
@@ -222,11 +225,17 @@ func TestVarsArgs(t *testing.T) {
 	s.set("without power", "db", security, 39, []byte{1}, api.ErrDead)
 	s.set("without power", "SetupMode", global, 3, []byte{1}, api.ErrDead)
 	for _, name := range []string{"x", "SetupMode", "PK"} {
-		_, _, e := v.Get(name, global, 0)
+		_, need, e := v.Get(name, global, 0)
 		wantErr(t, "P23.2: Get without power", e, api.ErrDead)
+		if need != 0 {
+			t.Errorf("R2: Get without power needs %d", need)
+		}
 	}
-	_, e := v.Mode()
+	mode, e := v.Mode()
 	wantErr(t, "P23.1: Mode without power", e, api.ErrDead)
+	if mode != 0 {
+		t.Errorf("R2: Mode without power: %d", mode)
+	}
 	_, _, e = v.Next("", global)
 	wantErr(t, "P23.1: Next without power", e, api.ErrDead)
 	wantErr(t, "P23.1: Drop without power", v.Drop("x", other), api.ErrDead)
@@ -249,10 +258,34 @@ func TestVarsLimits(t *testing.T) {
 	s.set("60000 bytes", "c", other, 3, make([]byte, 60000), 0)
 	s.set("what has no room", "d", other, 3, make([]byte, 60000), api.ErrFull)
 	s.hasNot("d", other)
+	// A signed value of 65536 bytes in all, most of which are the blob; and of one more.
+	list := hashList(1, 2)
+	filled := func(n int) []byte { return described(at(1), make([]byte, n-40-len(list)), list) }
+	s.set("65537 bytes, signed", "db", security, 39, filled(65537), api.ErrArg)
+	s.set("65536 bytes, signed", "db", security, 39, filled(65536), 0)
+	// What is merged has a limit, too.
+	f = newFlash(t, 8, 65536)
+	s = varsSteps{t, openVars(t, f)}
+	eight := certList(1, slices.Repeat([][]byte{make([]byte, 8000)}, 8)...)
+	s.set("lists of 64156 bytes", "db", security, 39, described(at(1), []byte{1}, eight), 0)
+	for _, n := range []int{1285, 1300, 8000} {
+		s.set("lists that are too long when merged", "db", security, 103, described(at(2), []byte{1}, certList(2, make([]byte, n))), api.ErrArg)
+	}
+	s.has("lists", api.Var{Name: "db", Guid: security, Attr: 39, Time: at(1), Data: eight})
+	s.set("lists that are long when merged", "db", security, 103, described(at(2), []byte{1}, certList(2, make([]byte, 1284))), 0)
+	s.has("lists", api.Var{Name: "db", Guid: security, Attr: 39, Time: at(2), Data: slices.Concat(eight, certList(2, make([]byte, 1284)))})
+}
+
+// wantMark fails the test unless the book of a flash has that mark.
+func wantMark(t *testing.T, f *flash.Flash, want uint8) {
+	t.Helper()
+	if got, e := openBook(t, f).Mark(); got != want || e != 0 {
+		t.Errorf("P23.3: the mark is %d, %d; want %d", got, e, want)
+	}
 }
 
 func TestVarsModes(t *testing.T) {
-	_, v := newVars(t)
+	f, v := newVars(t)
 	s := varsSteps{t, v}
 	for _, name := range []string{"SetupMode", "SecureBoot"} {
 		for _, data := range [][]byte{nil, {1}, {0}, {1, 2}} {
@@ -268,6 +301,7 @@ func TestVarsModes(t *testing.T) {
 	s.mode(api.ModeSetup)
 	s.set("AuditMode in Setup", "AuditMode", global, 3|4|32|64, []byte{1}, 0)
 	s.mode(api.ModeAudit)
+	wantMark(t, f, 1)
 	s.set("AuditMode in Audit", "AuditMode", global, 3, []byte{1}, api.ErrProtected)
 	s.set("DeployedMode in Audit", "DeployedMode", global, 3, []byte{1}, api.ErrProtected)
 	// In Audit nobody is asked; a PK then makes it Deployed.
@@ -279,10 +313,11 @@ func TestVarsModes(t *testing.T) {
 	s.set("PK to nothing by nobody", "PK", global, 39, stranger.signed("PK", global, 39, at(2), nil), api.ErrSecurity)
 	s.set("another PK in Deployed", "PK", global, 39, owner.signed("PK", global, 39, at(3), certList(1, stranger.cert)), 0)
 	s.mode(api.ModeDeployed)
-	_, s = enrolled(t)
+	f, s = enrolled(t)
 	s.set("AuditMode in User", "AuditMode", global, 3, []byte{1}, api.ErrProtected)
 	s.set("DeployedMode in User", "DeployedMode", global, 3, []byte{1}, 0)
 	s.mode(api.ModeDeployed)
+	wantMark(t, f, 2)
 	_, s = enrolled(t)
 	s.set("PK to nothing in User", "PK", global, 39, owner.signed("PK", global, 39, at(11), nil), 0)
 	s.mode(api.ModeSetup)
@@ -368,6 +403,9 @@ func TestVarsAppend(t *testing.T) {
 func TestVarsSetup(t *testing.T) {
 	_, v := newVars(t)
 	s := varsSteps{t, v}
+	s.set("db, no descriptor, where there is none", "db", security, 39, []byte{1}, api.ErrSecurity)
+	s.set("db, no descriptor, where there is none", "db", security, 103, nil, api.ErrSecurity)
+	s.set("x, no descriptor, where there is none", "x", other, 35, nil, api.ErrSecurity)
 	s.set("db by nobody", "db", security, 39, described(at(1), []byte{1}, hashList(1, 2)), 0)
 	s.set("db once more, not later", "db", security, 39, described(at(1), []byte{1}, hashList(1, 3)), api.ErrSecurity)
 	s.set("db, later", "db", security, 39, described(at(2), []byte{1}, hashList(1, 3)), 0)
@@ -437,6 +475,17 @@ func TestVarsForm(t *testing.T) {
 	_, _, e = s.v.Get("SecureBoot", global, 9)
 	wantErr(t, "P23.2: the book's error", e, api.ErrForm)
 	s.set("the book's error", "SetupMode", global, 3, []byte{1}, api.ErrForm)
+	s.set("the book's error", "db", security, 39, keeper.signed("db", security, 39, at(20), hashList(1, 2)), api.ErrForm)
+	store.Delete([]byte("mark"))
+	s.mode(api.ModeUser)
+	store.Set(append(bytes.Clone(global[:]), "KEK"...), []byte{1})
+	s.set("the book's error", "db", security, 39, keeper.signed("db", security, 39, at(20), hashList(1, 2)), api.ErrForm)
+	store.Set(append(bytes.Clone(global[:]), "PK"...), []byte{1})
+	mode, e := s.v.Mode()
+	wantErr(t, "P23.1: the book's error", e, api.ErrForm)
+	if mode != 0 {
+		t.Errorf("R2: Mode with an error: %d", mode)
+	}
 }
 
 // Wherever the power goes in a Set or a Drop, all is as ahead of it or as it would be.

@@ -46,6 +46,14 @@ var ways = map[string][]string{
 	"script":  {"interface", "interface-call", "copy", "array-compared"},
 }
 
+// below are the layers that each layer may call, beside package api.
+var below = map[string]string{
+	"octet": "", "crc": "", "sha": "", "nat": "", "mont": "nat", "rsa": "nat mont", "flash": "", "bank": "octet crc flash", "nvram": "flash bank", "der": "", "stamp": "octet", "cert": "der stamp",
+	"chain": "sha rsa cert", "cms": "der cert", "signer": "sha rsa der cms", "pe": "octet", "measure": "sha pe", "siglist": "octet stamp", "vname": "", "descr": "octet stamp", "keep": "octet flash nvram stamp vname",
+	"rule": "sha rsa cert chain cms signer siglist vname", "vars": "octet flash stamp siglist vname descr keep rule", "admit": "sha chain cms signer measure siglist", "option": "octet",
+	"boot": "octet measure vname vars rule admit option", "machine": "flash vars boot", "script": "machine",
+}
+
 // library is what LANGUAGE.md lets a package of the program import beside the project's own ones.
 var library = []string{"bytes", "cmp", "container/heap", "errors", "iter", "maps", "math", "math/bits", "slices", "sort", "strconv", "strings", "sync", "sync/atomic", "unicode", "unicode/utf8"}
 
@@ -208,7 +216,11 @@ func (s source) language(t *testing.T, layer string) {
 	for _, f := range s.files {
 		for _, i := range f.Imports {
 			path, _ := strconv.Unquote(i.Path.Value)
-			if !strings.HasPrefix(path, "lintel/") && !slices.Contains(library, path) {
+			lower, ours := strings.CutPrefix(path, "lintel/")
+			if ours && lower != "api" && !slices.Contains(strings.Fields(below[layer]), lower) {
+				t.Errorf("the map: %s calls %s", layer, lower)
+			}
+			if !ours && !slices.Contains(library, path) {
 				t.Errorf("language: %s imports %s", layer, path)
 			}
 		}
